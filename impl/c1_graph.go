@@ -76,10 +76,15 @@ func (s *orderedSet[T]) numberOf(x T) int {
 	return s.numbers[x]
 }
 
-// keyOf is all that makes two keys of a dictionary equal.
-type keyOf struct {
+// dictKey is all that makes two keys of a dictionary equal.
+type dictKey struct {
 	kind  int
 	value int
+}
+
+// keyOf returns what a node is as a key.
+func keyOf(n Node) dictKey {
+	return dictKey{n.Kind, n.Value}
 }
 
 // ValidGraph reports whether a graph is valid.
@@ -89,7 +94,7 @@ func ValidGraph(g Graph) bool {
 		return false
 	}
 	for _, n := range g.Nodes {
-		if !hasKids(n, count) || !fitsKind(g.Nodes, n) {
+		if len(n.Kids) > MaxKids || !areNodes(n.Kids, count) || !fitsKind(g.Nodes, n) {
 			return false
 		}
 	}
@@ -101,13 +106,10 @@ func isUpTo(x int, most int) bool {
 	return x >= 0 && x <= most
 }
 
-// hasKids reports whether a node has no more kids than are allowed, which are all among count nodes.
-func hasKids(n Node, count int) bool {
-	if len(n.Kids) > MaxKids {
-		return false
-	}
-	for _, k := range n.Kids {
-		if !isUpTo(k, count-1) {
+// areNodes reports whether the members of a list are all among count nodes.
+func areNodes(list []int, count int) bool {
+	for _, i := range list {
+		if !isUpTo(i, count-1) {
 			return false
 		}
 	}
@@ -124,25 +126,31 @@ func fitsKind(nodes []Node, n Node) bool {
 	case NkTuple, NkList:
 		return n.Value == 0
 	case NkDict:
-		return n.Value == 0 && hasKeys(nodes, n)
+		return n.Value == 0 && arePairs(nodes, n.Kids) && hasDifferentKeys(nodes, n)
 	case NkObj:
 		return isUpTo(n.Value, MaxClass) && len(n.Kids) <= 1
 	}
 	return false
 }
 
-// hasKeys reports whether the kids of a dictionary are different keys and their values by turns.
-func hasKeys(nodes []Node, dict Node) bool {
-	if len(dict.Kids)%2 != 0 {
+// arePairs reports whether a list of nodes is keys and their values by turns.
+func arePairs(nodes []Node, list []int) bool {
+	if len(list)%2 != 0 {
 		return false
 	}
-	var keys orderedSet[keyOf]
-	for i := 0; i < len(dict.Kids); i += 2 {
-		key := nodes[dict.Kids[i]]
-		if key.Kind != NkInt && key.Kind != NkText {
+	for i := 0; i < len(list); i += 2 {
+		if kind := nodes[list[i]].Kind; kind != NkInt && kind != NkText {
 			return false
 		}
-		if !keys.add(keyOf{key.Kind, key.Value}) {
+	}
+	return true
+}
+
+// hasDifferentKeys reports whether no two keys of a dictionary are equal.
+func hasDifferentKeys(nodes []Node, dict Node) bool {
+	var keys orderedSet[dictKey]
+	for i := 0; i < len(dict.Kids); i += 2 {
+		if !keys.add(keyOf(nodes[dict.Kids[i]])) {
 			return false
 		}
 	}
@@ -202,11 +210,16 @@ func CodeOf(g Graph) []int {
 	if !ValidGraph(g) {
 		return nil
 	}
+	return codeFrom(g.Nodes, g.Root)
+}
+
+// codeFrom returns the code of a root and its nodes, which may be more and have more kids than those of valid graphs.
+func codeFrom(nodes []Node, root int) []int {
 	var code []int
 	var met orderedSet[int]
 	var write func(i int)
 	write = func(i int) {
-		n := g.Nodes[i]
+		n := nodes[i]
 		if n.Kind != NkInt && !met.add(i) {
 			code = append(code, -1, met.numberOf(i))
 			return
@@ -216,7 +229,7 @@ func CodeOf(g Graph) []int {
 			write(k)
 		}
 	}
-	write(g.Root)
+	write(root)
 	return code
 }
 
