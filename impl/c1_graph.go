@@ -60,7 +60,7 @@ type orderedSet[T comparable] struct {
 
 // add reports whether x is a new member.
 func (s *orderedSet[T]) add(x T) bool {
-	if _, old := s.numbers[x]; old {
+	if s.has(x) {
 		return false
 	}
 	if s.numbers == nil {
@@ -69,6 +69,12 @@ func (s *orderedSet[T]) add(x T) bool {
 	s.numbers[x] = len(s.members)
 	s.members = append(s.members, x)
 	return true
+}
+
+// has reports whether x is a member.
+func (s *orderedSet[T]) has(x T) bool {
+	_, ok := s.numbers[x]
+	return ok
 }
 
 // numberOf returns the number of the member x.
@@ -202,6 +208,11 @@ func ReachOf(g Graph) []int {
 	if !ValidGraph(g) {
 		return nil
 	}
+	return reachFrom(g)
+}
+
+// reachFrom returns the nodes that are reached in a graph, which may have more nodes and kids than valid ones.
+func reachFrom(g Graph) []int {
 	return walkFrom(g.Nodes, []int{g.Root}, anyNode)
 }
 
