@@ -299,14 +299,18 @@ func pickedGraph(g Graph, picked []int) Graph {
 	}
 	nodes := make([]Node, len(picked))
 	for at, i := range picked {
-		n := g.Nodes[i]
-		var kids []int
-		for _, k := range n.Kids {
-			kids = append(kids, indices.numberOf(k))
-		}
-		nodes[at] = Node{Kind: n.Kind, Value: n.Value, Kids: kids}
+		nodes[at] = rewired(g.Nodes[i], indices.numberOf)
 	}
 	return Graph{Nodes: nodes, Root: indices.numberOf(g.Root)}
+}
+
+// rewired returns a copy of a node with other kids, each of which kidFor tells of the kid in whose place it is.
+func rewired(n Node, kidFor func(k int) int) Node {
+	var kids []int
+	for _, k := range n.Kids {
+		kids = append(kids, kidFor(k))
+	}
+	return Node{Kind: n.Kind, Value: n.Value, Kids: kids}
 }
 
 // TreeSize returns the number of nodes of a graph that is unfolded to a tree.

@@ -7,6 +7,46 @@ import (
 	"loop.example/graphcode/impl"
 )
 
+func TestPromise4SameIsTheSameBothWays(t *testing.T) {
+	same, different := 0, 0
+	d := &dice{state: 65}
+	check := func(a impl.Graph, b impl.Graph) {
+		if impl.SameGraph(a, b) != impl.SameGraph(b, a) || impl.SameGraph(a, b) != slices.Equal(wantCode(a), wantCode(b)) {
+			t.Errorf("SameGraph(%v, %v) = %v, and %v the other way round", a, b, impl.SameGraph(a, b), impl.SameGraph(b, a))
+		}
+		if !impl.SameGraph(a, b) {
+			different++
+			return
+		}
+		same++
+		for level := range 2 {
+			if x, y := impl.WriteGraph(a, level), impl.WriteGraph(b, level); !slices.Equal(x, y) {
+				t.Errorf("WriteGraph(%v, %d) = %v, but of %v it is %v", a, level, x, b, y)
+			}
+		}
+	}
+	graphPairs(check)
+	writable(func(g impl.Graph) {
+		check(g, g)
+		check(g, shuffled(g, d.order(len(g.Nodes))))
+		check(g, withoutUnreached(g))
+	})
+	if same < 10000 || different < 5000 {
+		t.Errorf("%d pairs are the same, and %d are not", same, different)
+	}
+	// Graphs that are equal, and not the same, have different programs.
+	a, b := graph(0, list(1, 1), text(7)), graph(0, list(1, 2), text(7), text(7))
+	if impl.SameGraph(a, b) || slices.Equal(impl.WriteGraph(a, 0), impl.WriteGraph(b, 0)) {
+		t.Errorf("%v and %v are the same", a, b)
+	}
+	// Nothing is the same as what is not valid, not even itself.
+	for _, c := range brokenGraphs() {
+		if impl.SameGraph(c.g, c.g) || impl.SameGraph(a, c.g) || impl.SameGraph(c.g, a) {
+			t.Errorf("%s: SameGraph(%v) = true", c.why, c.g)
+		}
+	}
+}
+
 func TestPromise5ProgramsTellGraphs(t *testing.T) {
 	first := map[string]impl.Graph{}
 	again := 0
@@ -402,4 +442,51 @@ func TestPromise29ShortOrdersAreCounted(t *testing.T) {
 			t.Errorf("IsShort(%v) = %v", ops, impl.IsShort(ops))
 		}
 	})
+}
+
+func TestPromise30CopiesAreTheSameAndApart(t *testing.T) {
+	valid, great := 0, 0
+	writable(func(g impl.Graph) {
+		c, ok := impl.CopyGraph(g)
+		if ok != (impl.WriteGraph(g, 0) != nil) || !ok && !isZero(c) {
+			t.Errorf("CopyGraph(%v) = %v, %v", g, c, ok)
+		}
+		if !ok {
+			return
+		}
+		// What is told of a copy must hold for one of too many nodes, too, of which the program tells nothing.
+		if !slices.Equal(wantCode(c), impl.CodeOf(g)) || len(wantReach(c)) != len(c.Nodes) || !wantEqualDeep(c, g) {
+			t.Errorf("CopyGraph(%v) = %v", g, c)
+		}
+		if !impl.ValidGraph(c) {
+			great++
+			if len(c.Nodes) <= impl.MaxNodes || impl.EqualDeep(c, g) {
+				t.Errorf("CopyGraph(%v) = %v", g, c)
+			}
+			return
+		}
+		valid++
+		if !impl.SameGraph(c, g) || !impl.EqualDeep(c, g) || !impl.EqualDeep(g, c) || len(impl.ReachOf(c)) != len(c.Nodes) {
+			t.Errorf("CopyGraph(%v) = %v", g, c)
+		}
+	})
+	if valid < 5000 || great < 100 {
+		t.Errorf("%d copies are valid, and %d are not", valid, great)
+	}
+	// A copy is apart: what is written into it is not in the graph.
+	g := graph(0, list(1, 0), tuple(2), text(3))
+	before := copied(g)
+	c, _ := impl.CopyGraph(g)
+	for i := range c.Nodes {
+		spoil(c.Nodes[i].Kids)
+		c.Nodes[i] = impl.Node{Kind: -9}
+	}
+	if !identical(g, before) {
+		t.Errorf("CopyGraph(%v) shares memory with it", before)
+	}
+	for _, b := range brokenGraphs() {
+		if c, ok := impl.CopyGraph(b.g); ok || !isZero(c) {
+			t.Errorf("%s: CopyGraph(%v) = %v, %v", b.why, b.g, c, ok)
+		}
+	}
 }
