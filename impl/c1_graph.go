@@ -351,12 +351,14 @@ func RenumberGraph(g Graph, order []int) Graph {
 
 // isOrder reports whether a list has each of count indices once.
 func isOrder(list []int, count int) bool {
-	if len(list) != count {
-		return false
-	}
-	var indices orderedSet[int]
+	return len(list) == count && areDifferent(list, count-1)
+}
+
+// areDifferent reports whether the members of a list are all in 0..most, and no two of them are equal.
+func areDifferent(list []int, most int) bool {
+	var met orderedSet[int]
 	for _, x := range list {
-		if !isUpTo(x, count-1) || !indices.add(x) {
+		if !isUpTo(x, most) || !met.add(x) {
 			return false
 		}
 	}
