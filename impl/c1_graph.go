@@ -224,8 +224,9 @@ func CodeOf(g Graph) []int {
 	return codeFrom(g.Nodes, g.Root)
 }
 
-// codeFrom returns the code of a root and its nodes, which may be more and have more kids than those of valid graphs.
-func codeFrom(nodes []Node, root int) []int {
+// codeFrom returns the code of roots, one after the other, and of their nodes, which may be more and have more kids than those
+// of valid graphs. What was met from one root is not met again from later ones.
+func codeFrom(nodes []Node, roots ...int) []int {
 	var code []int
 	var met orderedSet[int]
 	var write func(i int)
@@ -240,7 +241,9 @@ func codeFrom(nodes []Node, root int) []int {
 			write(k)
 		}
 	}
-	write(root)
+	for _, i := range roots {
+		write(i)
+	}
 	return code
 }
 

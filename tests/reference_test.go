@@ -94,12 +94,17 @@ func wantReach(g impl.Graph) []int {
 }
 
 func wantCode(g impl.Graph) []int {
+	return wantCodes(g.Nodes, []int{g.Root})
+}
+
+// wantCodes returns the code of roots, one after the other.
+func wantCodes(nodes []impl.Node, roots []int) []int {
 	var code, met []int
-	stack := []int{g.Root}
+	stack := pushed(nil, roots)
 	for len(stack) > 0 {
 		i := stack[len(stack)-1]
 		stack = stack[:len(stack)-1]
-		n := g.Nodes[i]
+		n := nodes[i]
 		if at := slices.Index(met, i); at >= 0 {
 			code = append(code, -1, at)
 			continue

@@ -14,9 +14,16 @@ import (
 
 // wantFull returns the program of a valid graph, however long.
 func wantFull(g impl.Graph, level int) []impl.Op {
-	var orders []string
+	return wantFullOf(g.Nodes, []int{g.Root}, level)
+}
+
+// wantFullOf returns the program of roots among the nodes of a valid graph, however long.
+func wantFullOf(nodes []impl.Node, roots []int, level int) []impl.Op {
+	var orders, words []string
 	var kept []int
-	words := []string{fmt.Sprint("push=", g.Root), "stop"}
+	for _, i := range roots {
+		words = append(words, fmt.Sprint("push=", i), "stop")
+	}
 	for len(words) > 0 {
 		name, arg, _ := strings.Cut(words[0], "=")
 		i, _ := strconv.Atoi(arg)
@@ -26,9 +33,9 @@ func wantFull(g impl.Graph, level int) []impl.Op {
 		case name == "push" && place >= 0:
 			orders = append(orders, fmt.Sprint("get=", place))
 		case name == "push":
-			instead = wordsOf(g.Nodes[i], i, level)
+			instead = wordsOf(nodes[i], i, level)
 		case name == "finish":
-			instead = lastWordsOf(g.Nodes[i], i, level, place >= 0)
+			instead = lastWordsOf(nodes[i], i, level, place >= 0)
 		case name == "keep":
 			orders = append(orders, fmt.Sprint("put=", len(kept)))
 			kept = append(kept, i)
